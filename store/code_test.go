@@ -218,15 +218,15 @@ func TestDecodeDrawn(t *testing.T) {
 	d := die(11)
 	for range 20000 {
 		b := body(drawn(&d))
-		for range d.n(4) {
-			i := 1 + d.n(len(b)-1)
-			switch d.n(3) {
+		for range d.N(4) {
+			i := 1 + d.N(len(b)-1)
+			switch d.N(3) {
 			case 0:
-				b[i] = byte(d.n(256))
+				b[i] = byte(d.N(256))
 			case 1:
 				b = slices.Delete(b, i, i+1)
 			case 2:
-				b = slices.Insert(b, i, byte(d.n(256)))
+				b = slices.Insert(b, i, byte(d.N(256)))
 			}
 			if len(b) < 2 {
 				break

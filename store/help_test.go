@@ -9,15 +9,10 @@ import (
 	"testing"
 
 	"tollbar/api"
+	"tollbar/probe"
 )
 
-// die: numbers that look drawn, the same in every run.
-type die uint64
-
-func (d *die) n(most int) int {
-	*d = *d*6364136223846793005 + 1442695040888963407
-	return int(uint64(*d>>33) % uint64(most))
-}
+type die = probe.Die
 
 func entry(key string, version, origin int, value string) api.Entry {
 	return api.Entry{Key: key, Version: version, Origin: origin, Value: value}
@@ -36,8 +31,8 @@ func many(n int) []api.Entry {
 func drawn(d *die) []api.Entry {
 	var l []api.Entry
 	for _, k := range []string{"0", ":", "a:1", "a:11", "b", "zzzzzzzz"} {
-		if d.n(2) == 0 {
-			l = append(l, entry(k, 1+d.n(3), d.n(3), []string{"", "v", "w", "\xff"}[d.n(4)]))
+		if d.N(2) == 0 {
+			l = append(l, entry(k, 1+d.N(3), d.N(3), []string{"", "v", "w", "\xff"}[d.N(4)]))
 		}
 	}
 	return l

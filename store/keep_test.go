@@ -8,27 +8,11 @@ import (
 	"testing"
 
 	"tollbar/api"
+	"tollbar/probe"
 	"tollbar/store"
 )
 
 var spare = api.Entry{Key: "spare", Version: -7, Origin: -7, Value: "spare"}
-
-// roomy: the same list, with spare room that is not empty.
-func roomy(l []api.Entry) []api.Entry {
-	out := slices.Clone(l)
-	for range 5 {
-		out = append(out, spare)
-	}
-	return out[:len(l)]
-}
-
-// spoil overwrites a list, its spare room too.
-func spoil[T any](l []T, with T) {
-	l = l[:cap(l)]
-	for i := range l {
-		l[i] = with
-	}
-}
 
 // call: one call of the package, of lists that are handed in; its answer as lists and all else.
 type call struct {
@@ -83,7 +67,7 @@ func TestListsStay(t *testing.T) {
 	for _, c := range calls() {
 		var in, was [][]api.Entry
 		for _, l := range c.in {
-			l = roomy(l)
+			l = probe.Roomy(l, spare)
 			in = append(in, l)
 			was = append(was, slices.Clone(l[:cap(l)]))
 		}
@@ -101,12 +85,12 @@ func TestListsStay(t *testing.T) {
 		if fmt.Sprint(l2, keys2, b2, rest2) != text {
 			t.Fatalf("%s: another answer the second time", c.name)
 		}
-		spoil(l2, spare)
-		spoil(keys2, "spoilt")
-		spoil(b2, 7)
+		probe.Spoil(l2, spare)
+		probe.Spoil(keys2, "spoilt")
+		probe.Spoil(b2, 7)
 		stays("with the answer")
 		for i := range in {
-			spoil(in[i], spare)
+			probe.Spoil(in[i], spare)
 		}
 		if fmt.Sprint(l, keys, b, rest) != text {
 			t.Fatalf("%s: the answer is changed with another one, or with what was handed in", c.name)
@@ -116,14 +100,14 @@ func TestListsStay(t *testing.T) {
 
 // TestOneListTwice: both arguments may be one list.
 func TestOneListTwice(t *testing.T) {
-	l := roomy(many(10))
+	l := probe.Roomy(many(10), spare)
 	got, keys, code := store.Merge(l, l)
 	wantCode(t, "a store and itself", code, api.OK)
 	wantStore(t, "a store and itself", got, many(10))
 	if len(keys) > 0 {
 		t.Errorf("a store and itself: keys %q", keys)
 	}
-	spoil(got, spare)
+	probe.Spoil(got, spare)
 	wantStore(t, "the store itself", l, many(10))
 }
 
@@ -139,11 +123,11 @@ func TestBytesStay(t *testing.T) {
 		}
 		again, _ := store.Decode(b)
 		text := fmt.Sprint(l, code)
-		spoil(again, spare)
+		probe.Spoil(again, spare)
 		if !slices.Equal(b[:cap(b)], was) {
 			t.Fatalf("%v is changed with the answer", was)
 		}
-		spoil(b, 'x')
+		probe.Spoil(b, 'x')
 		if fmt.Sprint(l, code) != text {
 			t.Fatalf("the answer is changed with the bytes, or with another one: %v, it was %s", l, text)
 		}
@@ -165,21 +149,21 @@ func TestWildArguments(t *testing.T) {
 	d := die(5)
 	wild := func() []api.Entry {
 		var l []api.Entry
-		for range d.n(4) {
-			l = append(l, entry(texts[d.n(len(texts))], numbers[d.n(len(numbers))], numbers[d.n(len(numbers))], texts[d.n(len(texts))]))
+		for range d.N(4) {
+			l = append(l, entry(texts[d.N(len(texts))], numbers[d.N(len(numbers))], numbers[d.N(len(numbers))], texts[d.N(len(texts))]))
 		}
 		return l
 	}
 	for range 3000 {
 		a, b := wild(), wild()
-		if d.n(2) == 0 {
+		if d.N(2) == 0 {
 			a = drawn(&d)
 		}
 		for _, s := range texts {
 			store.Key(s)
 			e, code := store.Get(a, s)
 			zero("Get", code, e)
-			l, code := store.Put(a, numbers[d.n(len(numbers))], s, texts[d.n(len(texts))])
+			l, code := store.Put(a, numbers[d.N(len(numbers))], s, texts[d.N(len(texts))])
 			zero("Put", code, l)
 			l, code = store.Decode([]byte(s))
 			zero("Decode", code, l)

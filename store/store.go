@@ -25,7 +25,8 @@ func isKeyByte(c byte) bool {
 	return 'a' <= c && c <= 'z' || '0' <= c && c <= '9' || c == ':'
 }
 
-func isNode(n int) bool { return 0 <= n && n < api.MaxNodes }
+// IsNode: is there a node of that number? The layers above ask it, too.
+func IsNode(n int) bool { return 0 <= n && n < api.MaxNodes }
 
 // Check a store.
 func Check(l []api.Entry) api.Errno {
@@ -46,7 +47,7 @@ func Check(l []api.Entry) api.Errno {
 func isEntry(e api.Entry) bool {
 	return Key(e.Key) &&
 		1 <= e.Version && e.Version <= api.MaxVersion &&
-		isNode(e.Origin) &&
+		IsNode(e.Origin) &&
 		len(e.Value) <= api.MaxValue
 }
 
@@ -126,7 +127,7 @@ func Put(l []api.Entry, node int, key, value string) ([]api.Entry, api.Errno) {
 	if code := Check(l); code != api.OK {
 		return nil, code
 	}
-	if !isNode(node) {
+	if !IsNode(node) {
 		return nil, api.ErrRange
 	}
 	if !Key(key) {

@@ -322,3 +322,15 @@ func TestPutRefuses(t *testing.T) {
 		}
 	}
 }
+
+// TestIsNode: P1.2, from 0 to below MaxNodes.
+func TestIsNode(t *testing.T) {
+	for n := -3; n < 3*api.MaxNodes; n++ {
+		if want := 0 <= n && n < 12; store.IsNode(n) != want {
+			t.Errorf("IsNode(%d): %v", n, !want)
+		}
+	}
+	if store.IsNode(-1<<63) || store.IsNode(1<<63-1) || store.IsNode(1<<32) {
+		t.Error("a number far out is a node")
+	}
+}

@@ -1,6 +1,7 @@
 package graph_test
 
 import (
+	"cmp"
 	"fmt"
 	"regexp"
 	"slices"
@@ -178,6 +179,9 @@ func TestPrefixOrder(t *testing.T) {
 				want = api.OK
 			}
 			wantCode(t, fmt.Sprint(a, b), graph.CheckPrefixes([]api.Prefix{a, b}), want)
+			if got := graph.ComparePrefixes(a, b); cmp.Compare(got, 0) != cmp.Compare(i, j) {
+				t.Errorf("ComparePrefixes(%v, %v): %d", a, b, got)
+			}
 		}
 	}
 }

@@ -3,7 +3,6 @@ package graph_test
 import (
 	"fmt"
 	"slices"
-	"sort"
 	"strings"
 	"testing"
 
@@ -12,6 +11,12 @@ import (
 )
 
 type die = probe.Die
+
+var (
+	kept          = probe.Kept
+	refusedStores = probe.RefusedStores
+	prefixes      = probe.Prefixes
+)
 
 // adj: of numbers, a node and a cost by turns.
 func adj(drain bool, numbers ...int) api.Adj {
@@ -22,40 +27,12 @@ func adj(drain bool, numbers ...int) api.Adj {
 	return a
 }
 
-// prefixes: of numbers, an address and bits by turns.
-func prefixes(numbers ...int) []api.Prefix {
-	var l []api.Prefix
-	for i := 0; i < len(numbers); i += 2 {
-		l = append(l, api.Prefix{Addr: numbers[i], Bits: numbers[i+1]})
-	}
-	return l
-}
-
 func sameAdj(a, b api.Adj) bool { return a.Drain == b.Drain && slices.Equal(a.Sides, b.Sides) }
 
 func wantCode(t *testing.T, what string, got, want api.Errno) {
 	t.Helper()
 	if got != want {
 		t.Errorf("%.200s: code %d, want %d", what, got, want)
-	}
-}
-
-// kept: a store of keys and values by turns.
-func kept(told ...string) []api.Entry {
-	var l []api.Entry
-	for i := 0; i < len(told); i += 2 {
-		l = append(l, api.Entry{Key: told[i], Version: 1, Value: told[i+1]})
-	}
-	sort.Slice(l, func(i, j int) bool { return l[i].Key < l[j].Key })
-	return l
-}
-
-// refusedStores: one of each code with which store.Check refuses.
-func refusedStores() map[api.Errno][]api.Entry {
-	return map[api.Errno][]api.Entry{
-		api.ErrSize:  make([]api.Entry, api.MaxEntries+1),
-		api.ErrForm:  {{Key: "a:0", Version: 0, Value: "1=1"}, {Key: "a:1", Version: 1, Value: "0=1"}},
-		api.ErrOrder: {{Key: "a:1", Version: 1, Value: "0=1"}, {Key: "a:0", Version: 1, Value: "1=1"}},
 	}
 }
 
